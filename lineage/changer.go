@@ -5,6 +5,7 @@ import (
 	"slices"
 
 	"newswire/api"
+	"newswire/copies"
 	"newswire/edit"
 	"newswire/lists"
 	"newswire/patch"
@@ -25,30 +26,10 @@ func (f family) all() iter.Seq2[int, api.Copy] {
 	}
 }
 
-func copiedTerm(t api.Term) api.Term {
-	return api.Term{Nodes: slices.Clone(t.Nodes)}
-}
-
-func copiedEdit(e api.Edit) api.Edit {
-	e.With = copiedTerm(e.With)
-	return e
-}
-
-func copiedCopy(c api.Copy) api.Copy {
-	c.Edits = lists.Map(c.Edits, copiedEdit)
-	c.Terms = lists.Map(c.Terms, copiedTerm)
-	c.Conflicts = slices.Clone(c.Conflicts)
-	return c
-}
-
-func copied(f api.Family) api.Family {
-	return api.Family{Copies: lists.Map(f.Copies, copiedCopy)}
-}
-
 // view returns the view that c, a copy of above, has of a term of above, and its conflicts.
 func view(above api.Copy, c api.Copy, number int) (api.Term, []api.Conflict, api.Errno) {
 	if number == c.Base {
-		return copiedTerm(c.Terms[0]), nil, api.OK
+		return copies.Term(c.Terms[0]), nil, api.OK
 	}
 	p, e := patch.Compile(above.Terms[c.Base], above.Terms[number])
 	if e != api.OK {
@@ -87,7 +68,7 @@ func changing(f api.Family, change func(c *changer)) (g api.Family, e api.Errno)
 			g, e = api.Family{}, api.ErrLineage
 		}
 	}()
-	c := &changer{family(copied(f))}
+	c := &changer{family(copies.Family(f))}
 	change(c)
 	return api.Family(c.family), api.OK
 }
@@ -102,7 +83,7 @@ func (c *changer) derive(of int, l []api.Edit) {
 	last := len(c.Copies[of].Terms) - 1
 	first, n, e := edit.Apply(c.Copies[of].Terms[last], l)
 	demand(e == api.OK && n == len(l))
-	c.Copies = append(c.Copies, api.Copy{Of: of, Edits: lists.Map(l, copiedEdit), Base: last, Got: last, Terms: []api.Term{first}})
+	c.Copies = append(c.Copies, api.Copy{Of: of, Edits: lists.Map(l, copies.Edit), Base: last, Got: last, Terms: []api.Term{first}})
 	c.check(len(c.Copies) - 1)
 }
 
@@ -110,7 +91,7 @@ func (c *changer) derive(of int, l []api.Edit) {
 func (c *changer) show(i int, t api.Term) {
 	k := &c.Copies[i]
 	if !term.Same(newest(*k), t) {
-		k.Terms = append(k.Terms, copiedTerm(t))
+		k.Terms = append(k.Terms, copies.Term(t))
 	}
 }
 

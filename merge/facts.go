@@ -6,6 +6,7 @@ import (
 	"slices"
 
 	"newswire/api"
+	"newswire/copies"
 	"newswire/lists"
 )
 
@@ -101,7 +102,7 @@ func Facts(d api.Desk) (api.File, [][2]int, api.Errno) {
 			skipped = append(skipped, [2]int{x.Desk, x.Number})
 		}
 	}
-	f := api.File{Sources: lists.Map(d.Sources, copiedSource)}
+	f := api.File{Sources: lists.Map(d.Sources, copies.Source)}
 	for _, h := range histories {
 		f.Versions = append(f.Versions, h.versions...)
 	}
