@@ -68,6 +68,17 @@ func Relay(r api.Relay) api.Relay {
 	return r
 }
 
+func race(x api.Race) api.Race {
+	x.Sizes, x.Counted = slices.Clone(x.Sizes), slices.Clone(x.Counted)
+	return x
+}
+
+// Races returns a copy of r.
+func Races(r api.Races) api.Races {
+	r.Races = lists.Map(r.Races, race)
+	return r
+}
+
 func filing(x api.Filing) api.Filing {
 	x.Sources = slices.Clone(x.Sources)
 	return x

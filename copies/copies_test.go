@@ -78,6 +78,7 @@ func TestCopies(t *testing.T) {
 	check(t, copies.Edit)
 	check(t, copies.Family)
 	check(t, copies.Relay)
+	check(t, copies.Races)
 	check(t, copies.Desk)
 	check(t, copies.Service)
 	check(t, copies.Setup)
