@@ -319,3 +319,27 @@ func TestP35_7Embargoes(t *testing.T) {
 		t.Error("a result shares memory with an argument")
 	}
 }
+
+func TestP35_1Limits(t *testing.T) {
+	x := entry(api.MaxTime, 99, 1000, 0)
+	x.Language, x.Copy.Text = 3, strings.Repeat("x", 4000)
+	a := of(t, entry(0, 0, 1, 0), x)
+	if y, ok := archive.On(a, 99, 3, api.MaxTime, reader, now(0)); !ok || y.Edition != 1000 {
+		t.Error(ok)
+	}
+	if b := of(t, entry(5, 1, 1, 0), entry(5, 1, 2, 0)); archive.Find(b, 1, 1, 5, reader, now(0)) != 1 {
+		t.Error("two at the same minute")
+	}
+	bad := entry(1, 1, 1, 0)
+	bad.Copy.Text = ""
+	if _, e := archive.Add(api.Archive{Entries: []api.Archived{{}}}, entry(1, 1, 1, 0)); e != api.ErrArchive {
+		t.Error("an archive that is not valid", e)
+	}
+	var many []api.Archived
+	for i := range 60 {
+		many = append(many, entry(i, 1, i+1, 0))
+	}
+	if a := of(t, many...); len(a.Entries) != 60 {
+		t.Error("60 entries")
+	}
+}

@@ -299,3 +299,21 @@ func TestP38_7Fees(t *testing.T) {
 	l.Entries = []api.Logged{paid(t, l, 70, 100, 1, printed(t, 1))}
 	expect(t, "a bill for what was not printed", l, wrong(0, api.RFee))
 }
+
+func TestP38_1Limits(t *testing.T) {
+	l := base(t)
+	l.Entries = slices.Repeat([]api.Logged{called(api.MaxTime, api.COpen)}, 30)
+	expect(t, "30 entries", l, fine)
+	l.Entries[0].At = 0
+	expect(t, "at the minute 0", l, fine)
+}
+
+func TestP38_7Prints(t *testing.T) {
+	l := base(t)
+	other := corrected(t, 12)
+	other.Language, other.Copy = 1, printed(t, 1)
+	l.Entries = []api.Logged{other, paid(t, l, 70, 100, 1, printed(t, 1))}
+	expect(t, "what no entry has printed", l, wrong(1, api.RFee))
+	l.Entries = []api.Logged{paid(t, l, 10, 100, 1, printed(t, 1)), print(t, 10, 1)}
+	expect(t, "what is printed later", l, wrong(0, api.RFee))
+}

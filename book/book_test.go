@@ -314,3 +314,29 @@ func TestP31_6Heads(t *testing.T) {
 		seen[h] = b.Postings
 	}
 }
+
+func TestP31_1Limits(t *testing.T) {
+	b := api.Book{Accounts: 12, Closed: 12, Postings: []api.Posting{posting(0, 11, 0, 1, 0), posting(359, 0, 11, 1000000000, 999)}}
+	if !book.Valid(b) || !book.Valid(api.Book{Accounts: 2}) {
+		t.Error("the greatest numbers")
+	}
+	b.Closed = 0
+	c, e := book.Dispute(b, 1, 359, 1000000000)
+	if c = must(t, c, e); len(c.Postings) != 4 {
+		t.Error(c)
+	}
+	if l := owed(t, c, 999); l[11] != 1000000000 {
+		t.Error(l)
+	}
+	if n, e := book.Balance(b, 11, 11); n != 1000000000 || e != api.OK {
+		t.Error(n, e)
+	}
+	if n, e := book.Balance(b, 11, 10); n != 0 || e != api.OK {
+		t.Error(n, e)
+	}
+	for month := range 12 {
+		if b, e = book.Close(b, month); e != api.OK || b.Closed != month+1 {
+			t.Error(month, e)
+		}
+	}
+}

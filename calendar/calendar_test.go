@@ -156,3 +156,27 @@ func TestP6_6Days(t *testing.T) {
 		t.Error(long)
 	}
 }
+
+func TestP6_1Limits(t *testing.T) {
+	for _, minute := range []int{0, api.MaxTime} {
+		for _, offset := range []int{-840, 0, 840} {
+			if c, e := calendar.Parts(minute, offset); c != civil(minute, offset) || e != api.OK {
+				t.Error(minute, offset, c, e)
+			}
+		}
+	}
+	c := api.Civil{Year: 2001, Month: 1, Day: 1}
+	for _, offset := range []int{-841, 841} {
+		if _, e := calendar.Minute(c, offset); e != api.ErrCalendar {
+			t.Error(offset, e)
+		}
+		if _, e := calendar.Read("2001-01-01", "00:00", offset); e != api.ErrCalendar {
+			t.Error(offset, e)
+		}
+	}
+	for _, s := range []string{"2000-01-1/", "2000-01-0:", "2000-0:-01", "200/-01-01", "2000-01-001"} {
+		if _, e := calendar.Read(s, "00:00", 0); e != api.ErrCalendar {
+			t.Error(s, e)
+		}
+	}
+}

@@ -285,3 +285,26 @@ func TestP28_7All(t *testing.T) {
 		}
 	}
 }
+
+func TestP28_1Limits(t *testing.T) {
+	r, e := call.Open(ratio(999, 1000))
+	r = must(t, r, e)
+	sizes := slices.Repeat([]int{50}, 20)
+	sizes[3] = 0
+	r, e = call.Register(r, api.Race{ID: 999, Sizes: sizes, Alpha: ratio(1, 1000), Bet: 50})
+	r = must(t, r, e)
+	r, e = call.Register(r, api.Race{Sizes: []int{1}, Alpha: ratio(998, 1000), Bet: 1})
+	r = must(t, r, e)
+	if left, e := call.Left(r); left.Num != "0" || e != api.OK || r.Races[0].ID != 0 {
+		t.Error(left, e)
+	}
+	x := report(t, example(t), 0, 0, true, false)
+	for _, c := range []struct{ from, votes int }{{1, 3}, {2, 2}, {3, 0}} {
+		if _, _, e := call.Report(x, 7, api.Ballots{From: c.from, Votes: make([]bool, c.votes)}); e != api.ErrCall {
+			t.Error(c, e)
+		}
+	}
+	if y, n, e := call.Report(x, 7, api.Ballots{From: 2, Votes: []bool{true}}); n != 1 || y.Races[0].Yes != 2 || e != api.OK {
+		t.Error(n, e)
+	}
+}

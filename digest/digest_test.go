@@ -165,3 +165,14 @@ func TestP2_4Extensions(t *testing.T) {
 		t.Error("extensions of nothing")
 	}
 }
+
+func TestP2_4NoProof(t *testing.T) {
+	for n := 2; n < 12; n++ {
+		for m := 1; m < n; m++ {
+			l := list(n)
+			if digest.VerifyExtension(digest.Root(l[:m]), m, digest.Root(l), n, nil) {
+				t.Error(m, n)
+			}
+		}
+	}
+}

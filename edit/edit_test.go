@@ -303,3 +303,31 @@ func TestP18_7Counts(t *testing.T) {
 		}
 	}
 }
+
+func TestP18_1Limits(t *testing.T) {
+	x := example()
+	x.Nodes[3].ID = 9999
+	l := slices.Repeat([]api.Edit{move(9999, 7, 0)}, 20)
+	if y := apply(t, x, l...); !term.Same(x, y) {
+		t.Error(y)
+	}
+	if !edit.Valid(move(9999, 9999, 39)) || !edit.Valid(own(9999, "x")) {
+		t.Error("the greatest numbers")
+	}
+}
+
+func TestP18_3ListsThatChange(t *testing.T) {
+	x := example()
+	a, b := api.Term{Nodes: []api.Node{leaf(50, -1, api.NSentence, 1)}}, api.Term{Nodes: []api.Node{leaf(51, -1, api.NSentence, 1)}}
+	for i, c := range []struct {
+		a, b  api.Edit
+		apart bool
+	}{
+		{join(0, 0, a), cut(4), false}, {join(0, 0, a), join(0, 0, b), false}, {join(0, 0, a), join(7, 0, b), true}, {join(0, 0, a), cut(5), true}, {join(0, 0, a), own(4, "x"), true},
+		{join(7, 0, a), move(5, 0, 0), false}, {join(7, 0, a), move(4, 0, 0), true}, {join(7, 0, a), join(7, 0, a), false}, {move(5, 0, 0), join(0, 0, a), false}, {own(4, "x"), own(5, "x"), true}, {cut(4), cut(5), true},
+	} {
+		if edit.Apart(x, c.a, c.b) != c.apart || edit.Apart(x, c.b, c.a) != c.apart {
+			t.Error(i, c.a, c.b)
+		}
+	}
+}

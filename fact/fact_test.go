@@ -276,3 +276,41 @@ func TestP8_6Codes(t *testing.T) {
 		}
 	}
 }
+
+func TestP8_1Limits(t *testing.T) {
+	for _, s := range []api.Statement{{}, {Who: 19, What: 9, Whom: 19, From: api.MaxTime, To: api.MaxTime}, {Whom: -1, From: -1, To: -1}, {From: 0, To: api.MaxTime}} {
+		if !fact.ValidStatement(s) {
+			t.Error(s)
+		}
+	}
+	v := version(15, 1, api.VAssert, api.MaxTime, people(1))
+	f := api.File{Sources: []api.Source{{ID: 0, Kind: 1}, {ID: 11, Kind: 2, From: []int{0}}}, Versions: []api.Version{v}}
+	f.Versions[0].Sources = []int{0, 11}
+	for n := 2; n <= 8; n++ {
+		f.Versions = append(f.Versions, version(15, n, api.VCorrect, api.MaxTime, people(n)))
+	}
+	if !fact.Valid(f) {
+		t.Error("the greatest numbers")
+	}
+	f.Versions = append(f.Versions, version(15, 9, api.VCorrect, api.MaxTime, people(9)))
+	if fact.Valid(f) {
+		t.Error("nine versions")
+	}
+	early := api.File{Sources: f.Sources, Versions: []api.Version{version(0, 1, api.VAssert, 0, people(1))}}
+	if g, e := fact.Add(early, version(0, 2, api.VCorrect, 0, people(2))); e != api.OK || len(g.Versions) != 2 {
+		t.Error("at the same minute", e)
+	}
+	for world, n := range map[int]int{4: 0, 5: 1, 8: 1, 9: 0} {
+		if l := fact.In(early, world, 0); len(l) != n {
+			t.Error(world, l)
+		}
+	}
+	early.Versions[0].Says.From, early.Versions[0].Says.To = -1, -1
+	if len(fact.In(early, 1<<40, 0)) != 1 {
+		t.Error("a fact without a time does not hold")
+	}
+	v.Sources = make([]int, 12)
+	if s, e := fact.Encode(v); e != api.OK || s == "" {
+		t.Error("12 sources", e)
+	}
+}

@@ -357,3 +357,32 @@ func TestP32_7Refunds(t *testing.T) {
 		}
 	}
 }
+
+func TestP32_1Limits(t *testing.T) {
+	x := example()
+	x.Sources[0], x.Sources[11], x.Bureaus[0], x.Bureaus[15] = 4, 5, 6, 7
+	b := bill(1000000, 3, use(0, 0, 1000), use(15, 11, 1000))
+	b.ID = 999
+	if l := divide(t, x, b); !slices.Equal(l, []api.Share{{Account: 6, Amount: 300000}, {Account: 6, Amount: 100000}, {Account: 4, Amount: 100000}, {Use: 1, Account: 7, Amount: 300000}, {Use: 1, Account: 7, Amount: 100000}, {Use: 1, Account: 5, Amount: 100000}}) {
+		t.Error(l)
+	}
+	b = bill(1, 1, slices.Repeat([]api.Use{use(0, 99, 1)}, 12)...)
+	b.ID = 0
+	if l := divide(t, x, b); !slices.Equal(l, []api.Share{{Account: 6, Amount: 1}}) {
+		t.Error(l)
+	}
+	if l := divide(t, x, bill(1, 1)); !slices.Equal(l, []api.Share{{Use: -1, Amount: 1}}) {
+		t.Error(l)
+	}
+	for _, parts := range [][3]int{{100, 0, 0}, {0, 100, 0}, {0, 0, 100}} {
+		x.Parts = parts
+		if !fee.ValidTariff(x) {
+			t.Error(parts)
+		}
+	}
+	for _, fact := range []int{0, 15} {
+		if _, _, e := fee.Refund(x, b, fact); e != api.OK {
+			t.Error(fact, e)
+		}
+	}
+}

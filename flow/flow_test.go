@@ -257,3 +257,22 @@ func TestP26_7Order(t *testing.T) {
 		}
 	}
 }
+
+func TestP26_1Limits(t *testing.T) {
+	x := item(strings.Repeat("x", 60), api.MaxTime, 3, api.MaxTime)
+	l, m := slices.Repeat([]api.Item{x}, 12), slices.Repeat([]api.Moment{{Now: api.MaxTime}}, 40)
+	if s, e := flow.Seen(l, api.Reader{Territory: 7, Class: 7}, m); len(s) != 12 || e != api.OK {
+		t.Error(len(s), e)
+	}
+	if texts, e := flow.Read(feed(t, api.FSlots, l, m)); len(texts) != 12 || texts[0] != x.Text || e != api.OK {
+		t.Error(len(texts), e)
+	}
+	y := item("x", 1, 1, 0)
+	for i, change := range []func(x *api.Item){func(x *api.Item) { x.At = 2 }, func(x *api.Item) { x.Label.Until = 1 }, func(x *api.Item) { x.Class = 2 }, func(x *api.Item) { x.Text = "y" }} {
+		z := y
+		change(&z)
+		if flow.Alike([]api.Item{y}, []api.Item{z}, reader, moments) {
+			t.Error(i, "alike")
+		}
+	}
+}

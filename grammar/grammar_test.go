@@ -263,3 +263,48 @@ func TestP12_6Exchange(t *testing.T) {
 		}
 	}
 }
+
+func TestP12_1Limits(t *testing.T) {
+	g := samples.Small()
+	g.Entities = []api.Entity{{Word: strings.Repeat("x", 20), Gender: 2}}
+	g.Sources = nil
+	if !grammar.Valid(g) {
+		t.Error("the smallest grammar")
+	}
+	for _, s := range []string{"a", "z", "0", "9", "az09 x"} {
+		if !grammar.Sayable(g, api.Node{Kind: api.NOwn, Text: s}) {
+			t.Error(s)
+		}
+	}
+	for _, s := range []string{"`", "{", "/", ":", "a_"} {
+		if grammar.Sayable(g, api.Node{Kind: api.NOwn, Text: s}) {
+			t.Error(s)
+		}
+	}
+	n := sentence(0, -1)
+	n.Says.Count, n.Says.From, n.Says.To = api.Amount{Lo: 0, Hi: 999999, Unit: 7}, 0, api.MaxTime
+	if !grammar.Sayable(g, n) {
+		t.Error("the greatest numbers")
+	}
+	n.Says.Count, n.Says.From = api.Amount{Unit: 1}, api.MaxTime
+	if s := say(t, g, n); !strings.Contains(s, "with zero people at 2095-") {
+		t.Error(s)
+	}
+}
+
+func TestP12_3Articles(t *testing.T) {
+	g := samples.Small()
+	g.Entities = nil
+	for i := range 6 {
+		g.Entities = append(g.Entities, api.Entity{Word: "entity-" + string(rune('a'+i)), Gender: i / 2, Many: i%2 == 1})
+		g.Subjects[i], g.Objects[i] = "subject-"+string(rune('a'+i)), "object-"+string(rune('a'+i))
+	}
+	for i := range 6 {
+		s, e := grammar.Article(g, i, false)
+		o, f := grammar.Article(g, i, true)
+		v, h := grammar.Form(g, 0, i)
+		if s != g.Subjects[i] || o != g.Objects[i] || v != []string{"warns", "warn"}[i%2] || e != api.OK || f != api.OK || h != api.OK {
+			t.Error(i, s, o, v)
+		}
+	}
+}

@@ -232,3 +232,27 @@ func TestP22_7Refused(t *testing.T) {
 		}
 	}
 }
+
+func TestP22_1Limits(t *testing.T) {
+	x := api.Term{Nodes: []api.Node{{Parent: -1, Kind: api.NStory}}}
+	for i := range 39 {
+		x.Nodes = append(x.Nodes, leaf(i+1, 0, api.NSentence, 15*(i%2)))
+	}
+	for _, fact := range []int{0, 15} {
+		if _, o := killed(t, x, fact); !kill.Check(o) || o.Count != 40 || len(o.Leaves) < 19 {
+			t.Error(fact)
+		}
+	}
+	one := api.Term{Nodes: []api.Node{leaf(1, -1, api.NSentence, 3)}}
+	_, o := killed(t, one, 3)
+	if !kill.Check(o) || o.Count != 1 {
+		t.Error(o)
+	}
+	for i, change := range []func(o *api.Obituary){func(o *api.Obituary) { o.Fact = -1 }, func(o *api.Obituary) { o.Indices = []int{-1} }, func(o *api.Obituary) { o.Indices = []int{1} }, func(o *api.Obituary) { o.Indices = nil }, func(o *api.Obituary) { o.Leaves = nil }, func(o *api.Obituary) { o.Proofs = nil }, func(o *api.Obituary) { o.Leaves[0].Kind = api.NNotice }} {
+		_, p := killed(t, one, 3)
+		change(&p)
+		if kill.Check(p) {
+			t.Error(i)
+		}
+	}
+}

@@ -264,3 +264,31 @@ func TestP10_8Codes(t *testing.T) {
 		}
 	}
 }
+
+func TestP10_1Limits(t *testing.T) {
+	lock := func(keys ...int) api.Quorum { return api.Quorum{Need: len(keys), Keys: keys} }
+	l := api.Label{Until: api.MaxTime, Events: []int{0, 19}, Counts: []api.Confirmed{{Fact: 0, Count: 1}, {Fact: 15, Count: 12}}, Territories: 128, Classes: 128, Locks: []api.Quorum{lock(0), lock(19), lock(0, 19), lock(1, 2)}}
+	if !label.Valid(l) {
+		t.Fatal("not valid")
+	}
+	if j, e := label.Join(l, l); e != api.OK || !label.Same(j, l) {
+		t.Error(e)
+	}
+	m := api.Moment{Now: api.MaxTime, Events: []int{0, 19}, Confirmed: []api.Confirmed{{Fact: 0, Count: 1}, {Fact: 15, Count: 12}}, Keys: []int{0, 1, 2, 19}}
+	if n := label.Reason(l, api.Reader{Territory: 7, Class: 7}, m); n != 0 {
+		t.Error(n)
+	}
+	for i, change := range []func(l *api.Label){func(l *api.Label) { l.Events = []int{20} }, func(l *api.Label) { l.Locks[0].Keys = []int{20} }, func(l *api.Label) { l.Counts[1].Fact = 16 }} {
+		k := label.None()
+		k.Counts, k.Locks = []api.Confirmed{{Fact: 0, Count: 1}, {Fact: 15, Count: 12}}, []api.Quorum{lock(0)}
+		change(&k)
+		if label.Valid(k) {
+			t.Error(i)
+		}
+	}
+	for i, m := range []api.Moment{{Events: []int{20}}, {Keys: []int{20}}, {Confirmed: []api.Confirmed{{Fact: 16}}}} {
+		if label.ValidMoment(m) {
+			t.Error(i)
+		}
+	}
+}

@@ -344,3 +344,33 @@ func TestP23_7Missing(t *testing.T) {
 		}
 	}
 }
+
+func TestP23_1Limits(t *testing.T) {
+	long := strings.Repeat("x", 4000)
+	l, e := line.Cut(999, long, 100)
+	if e != api.OK || len(l) != 40 || !line.Valid(l[39]) {
+		t.Error(e)
+	}
+	h, e := line.New(999, 4000)
+	if e != api.OK || !line.ValidHeld(h) {
+		t.Error(e)
+	}
+	if _, e := line.New(0, 1); e != api.OK {
+		t.Error(e)
+	}
+	all := hold(t, h, l...)
+	if s, e := line.Text(all); s != long || e != api.OK || len(all.Pieces) != 1 {
+		t.Error(e)
+	}
+	many := slices.Repeat(l, 5)
+	if s, e := line.Carry(many, slices.Repeat([]api.Fate{{Delay: 50, Again: 50, Split: 100, Spoil: 1000}}, 200)); len(s) != 400 || e != api.OK {
+		t.Error(len(s), e)
+	}
+	if a, b, e := line.Split(l[0], 99); len(a.Data) != 99 || len(b.Data) != 1 || e != api.OK {
+		t.Error(e)
+	}
+	bad := api.Held{Message: 7, Total: 9, Pieces: []api.Piece{{From: 20, Data: "x"}}}
+	if _, e := line.Receive(bad, encode(t, api.Frame{Message: 7, Total: 9, Data: "a"})); e != api.ErrLine {
+		t.Error("what is held is not valid", e)
+	}
+}

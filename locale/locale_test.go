@@ -217,3 +217,33 @@ func TestP16_7Commute(t *testing.T) {
 		}
 	}
 }
+
+func TestP16_4UnitsOfPlaces(t *testing.T) {
+	for _, p := range []api.Place{{Units: 1, Money: 1}, {Units: 1, Money: 2}, {Units: 2, Money: 1}, {Units: 2, Money: 2}} {
+		want := []int{0, api.UPeople, api.UMetre + p.Units - 1, api.UMetre + p.Units - 1, api.UKilogram + p.Units - 1, api.UKilogram + p.Units - 1, api.UCent + p.Money - 1, api.UCent + p.Money - 1}
+		for u := 1; u <= 7; u++ {
+			if a, e := locale.Amount(api.Amount{Lo: 5, Hi: 6, Unit: u}, p, rates); a.Unit != want[u] || e != api.OK {
+				t.Error(p, u, a, e)
+			}
+		}
+	}
+}
+
+func TestP16_5BeforeTheBeginning(t *testing.T) {
+	west := api.Place{Offset: -60, Units: 1, Money: 1}
+	for from, want := range map[int]api.Errno{59: api.ErrLocale, 60: api.OK, 0: api.ErrLocale} {
+		if s, e := locale.Statement(api.Statement{Whom: -1, From: from, To: from}, west, rates); e != want || e == api.OK && s.From != 0 {
+			t.Error(from, s, e)
+		}
+	}
+	story := api.Term{Nodes: []api.Node{{Parent: -1, Kind: api.NStory}}}
+	for i, c := range []struct {
+		x api.Term
+		p api.Place
+		r api.Rates
+	}{{api.Term{}, place, rates}, {story, api.Place{}, rates}, {story, place, api.Rates{}}} {
+		if x, e := locale.Localize(c.x, c.p, c.r); x.Nodes != nil || e != api.ErrLocale {
+			t.Error(i, e)
+		}
+	}
+}

@@ -324,3 +324,23 @@ func TestP36_7Slips(t *testing.T) {
 		t.Error("a result shares memory with an argument")
 	}
 }
+
+func TestP36_1Limits(t *testing.T) {
+	l := []api.Source{{ID: 0, Kind: api.SNamed}, {ID: 11, Kind: api.SNamed}}
+	d, e := merge.New(3, l)
+	d = must(t, d, e)
+	for range 60 {
+		d, e = merge.File(d, filing(15, api.VAssert, api.MaxTime, 0, 11))
+		d = must(t, d, e)
+	}
+	for _, story := range []int{0, 19} {
+		d, e = merge.Tag(d, story, until(7))
+		d = must(t, d, e)
+		if k, e := merge.Label(d, story); !label.Same(k, until(7)) || e != api.OK {
+			t.Error(story, k, e)
+		}
+	}
+	if f, skipped := facts(t, d); len(f.Versions) != 7 || len(skipped) != 53 {
+		t.Error(f, skipped)
+	}
+}

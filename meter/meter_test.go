@@ -269,3 +269,22 @@ func TestP30_6Codes(t *testing.T) {
 		}
 	}
 }
+
+func TestP30_1Limits(t *testing.T) {
+	p := printed(t, samples.Grammar(1), story(leaf(1, api.NSentence, -1)))
+	for _, reader := range []int{0, 99} {
+		if l, e := meter.Uses(samples.Grammar(1), file(), reader, p); len(l) != 1 || l[0].Reader != reader || e != api.OK {
+			t.Error(reader, e)
+		}
+	}
+	var l []api.Use
+	for i := range 200 {
+		l = append(l, use(i/2, 0, 1, -1, 5+i%2, 1))
+	}
+	if !meter.Valid(l) {
+		t.Error("200 uses")
+	}
+	if _, e := meter.Add(l, []api.Use{use(99, 15, 8, 99, 8, 1)}); e != api.ErrMeter {
+		t.Error("201 uses", e)
+	}
+}

@@ -256,3 +256,19 @@ func TestP15_6SameWords(t *testing.T) {
 		}
 	}
 }
+
+func TestP15_1Limits(t *testing.T) {
+	g := samples.Small()
+	hundred := strings.TrimSpace(strings.Repeat("x ", 100))
+	for _, s := range []string{"own 100 " + hundred, "own 1 z9", "dot the minister warns with zero people", "dot the minister warns at 2000-01-01 00:00", "dot the minister warns since 2000-01-01 00:00 until 2000-01-01 00:01", "dot the minister warns since 2000-01-01 23:58 until 2000-01-01 23:59", "dot the minister warns since 2095-01-24 05:19 until 2095-01-24 05:20", "dot the minister warns with between zero and nine hundred ninety-nine thousand nine hundred ninety-nine people"} {
+		x, n, e := parse.Parse(g, s)
+		if e != api.OK || n != len(parse.Split(s)) || text(t, g, x) != s {
+			t.Errorf("%q: %d, %d", s, n, e)
+		}
+	}
+	for s, n := range map[string]int{"own 2 " + strings.Repeat("x", 100) + " " + strings.Repeat("x", 100): 3, "own 1 " + strings.Repeat("x", 201): 2, "dot the minister warns since 2000-01-01 23:59 until 2000-01-01 23:59": 8} {
+		if _, at, e := parse.Parse(g, s); at != n || e != api.ErrParse {
+			t.Error(s, at, e)
+		}
+	}
+}

@@ -427,3 +427,63 @@ func TestP19_7Codes(t *testing.T) {
 		}
 	}
 }
+
+func TestP19_1Limits(t *testing.T) {
+	if !patch.Valid(api.Patch{Ops: []api.Op{drop(0), drop(9999), set(leaf(9999, 9999, 0, 0)), put(leaf(0, 9999, 15, 8), 39)}}) {
+		t.Error("the greatest numbers")
+	}
+	x := story(api.Node{ID: 7, Kind: api.NParagraph})
+	for i, o := range []api.Op{set(leaf(7, 0, 1, 1)), set(leaf(8, 0, 1, 1))} {
+		if y, e := patch.Apply(x, api.Patch{Ops: []api.Op{o}}); y.Nodes != nil || e != api.ErrPatch {
+			t.Error(i, "a leaf is set where none is", e)
+		}
+	}
+	elsewhere := leaf(4, 7, 2, 2)
+	if y, e := patch.Apply(story(leaf(4, 0, 2, 1)), api.Patch{Ops: []api.Op{set(elsewhere)}}); e != api.OK || y.Nodes[1] != leaf(4, 0, 2, 2) {
+		t.Error("a parent is changed", y, e)
+	}
+}
+
+// rebased is what becomes of the copy of x.
+func rebased(t *testing.T, x, y api.Term, l ...api.Edit) (api.Term, []api.Conflict) {
+	t.Helper()
+	q, conflicts, e := patch.Rebase(x, compile(t, x, y), l)
+	if e != api.OK {
+		t.Fatal(e)
+	}
+	return apply(t, applyEdits(t, x, l), q), conflicts
+}
+
+func TestP19_4Places(t *testing.T) {
+	para := api.Node{ID: 7, Kind: api.NParagraph}
+	x := story(leaf(4, 0, 2, 1), para, leaf(5, 7, 3, 1))
+	y := story(leaf(4, 0, 2, 1), leaf(8, 0, 4, 1), para, leaf(5, 7, 3, 1), leaf(6, 7, 4, 1))
+	cut := api.Edit{Kind: api.ECut, Node: 7}
+	if c, l := rebased(t, x, y, cut); len(l) != 0 || !term.Same(c, story(leaf(4, 0, 2, 1), leaf(8, 0, 4, 1))) {
+		t.Error("under what was cut", c)
+	}
+	down := api.Edit{Kind: api.EMove, Node: 4, To: 7, Index: 1}
+	if c, _ := rebased(t, x, y, down); !term.Same(c, story(leaf(8, 0, 4, 1), para, leaf(5, 7, 3, 1), leaf(6, 7, 4, 1), leaf(4, 7, 2, 1))) {
+		t.Error("after what was moved away", c)
+	}
+	nested := story(leaf(4, 0, 2, 1), para, leaf(5, 7, 3, 1), api.Node{ID: 20, Kind: api.NList}, leaf(21, 20, 5, 1), leaf(22, 20, 5, 1))
+	if c, _ := rebased(t, x, nested, api.Edit{Kind: api.EJoin, With: api.Term{Nodes: []api.Node{leaf(20, -1, 1, 1)}}}); !term.Same(c, story(leaf(20, 0, 1, 1), leaf(4, 0, 2, 1), para, leaf(5, 7, 3, 1), api.Node{ID: 1, Kind: api.NList}, leaf(21, 1, 5, 1), leaf(22, 1, 5, 1))) {
+		t.Error("with another ID", c)
+	}
+	own := api.Edit{Kind: api.EOwn, Node: 4, Text: "x"}
+	denied := leaf(4, 0, 2, 2)
+	denied.Not = true
+	c, l := rebased(t, story(leaf(4, 0, 2, 1)), story(denied, leaf(6, 0, 4, 1)), own)
+	if !slices.Equal(l, []api.Conflict{{Node: 4, Fact: 2, Version: 2}}) || !term.Same(c, story(api.Node{ID: 4, Kind: api.NOwn, Text: "x"}, api.Node{ID: 1, Kind: api.NNotice, Fact: 2, Version: 2}, leaf(6, 0, 4, 1))) {
+		t.Error("after a notice", c, l)
+	}
+	root := api.Term{Nodes: []api.Node{leaf(4, -1, 2, 1)}}
+	later := api.Term{Nodes: []api.Node{leaf(4, -1, 2, 2)}}
+	if c, l := rebased(t, root, later); len(l) != 0 || !term.Same(c, later) {
+		t.Error("a root", c, l)
+	}
+	list := api.Node{ID: 7, Kind: api.NList}
+	if c, _ := rebased(t, x, story(leaf(4, 0, 2, 1), list, leaf(5, 7, 3, 1))); !term.Same(c, story(leaf(4, 0, 2, 1), api.Node{ID: 1, Kind: api.NList}, para, leaf(5, 7, 3, 1))) {
+		t.Error("a container of another kind", c)
+	}
+}

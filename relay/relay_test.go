@@ -304,3 +304,30 @@ func TestP25_7Paper(t *testing.T) {
 		}
 	}
 }
+
+func TestP25_1Limits(t *testing.T) {
+	r := api.Relay{ID: 7, Paper: 10000, Kept: []api.Dispatch{dispatch(0, 1, 1, 0), dispatch(19, 1000, 3, 20000)}}
+	for i := range 400 {
+		r.Slips = append(r.Slips, api.Slip{Relay: 7, Story: 19, Edition: 1 + i, Digest: strings.Repeat("d", 32)})
+	}
+	r.Slips[399].Edition = 1000
+	if !relay.Valid(r) || len(tell(t, r).Slips) != 400 {
+		t.Error("the greatest relay")
+	}
+	for i, s := range []api.Slip{{Relay: 8, Story: 1, Edition: 1}, {Relay: -1, Story: 1, Edition: 1}, {Relay: 1, Story: 20, Edition: 1}, {Relay: 1, Story: -1, Edition: 1}, {Relay: 1, Story: 1, Edition: 1001}, {Relay: 1, Story: 1}} {
+		s.Digest = strings.Repeat("d", 32)
+		if relay.Valid(api.Relay{Slips: []api.Slip{s}}) {
+			t.Error(i, s)
+		}
+	}
+	for i, p := range []api.Packet{{From: 8}, {From: -1}, {Kept: []api.Dispatch{{}}}, {Slips: []api.Slip{{}}}} {
+		if _, e := relay.Hear(example(t), p); e != api.ErrRelay {
+			t.Error(i, e)
+		}
+	}
+	for _, paper := range []int{-1, -5} {
+		if _, e := relay.Refill(api.Relay{Paper: paper}, 10); e != api.ErrRelay {
+			t.Error(paper, e)
+		}
+	}
+}

@@ -225,3 +225,17 @@ func TestP14_7Languages(t *testing.T) {
 		}
 	}
 }
+
+func TestP14_1Limits(t *testing.T) {
+	for _, s := range []api.Span{{To: 1}, {Node: 9999, From: 2, To: 3, Fact: 15, Version: 8}} {
+		if p := (api.Printed{Text: "a b c", Spans: []api.Span{s}}); !render.Valid(p) {
+			t.Error(s)
+		}
+	}
+	p := printed(t, samples.Small(), example())
+	for i, q := range []api.Printed{{Text: p.Text}, {Text: p.Text + " fin", Spans: p.Spans}, {}} {
+		if render.Check(samples.Small(), example(), q) {
+			t.Error(i)
+		}
+	}
+}

@@ -285,3 +285,22 @@ func TestP29_6Order(t *testing.T) {
 		}
 	}
 }
+
+func TestP29_1Limits(t *testing.T) {
+	c := api.Clause{Work: 11, Kind: api.COffer, Territories: 128, Classes: 128, From: api.MaxTime, To: api.MaxTime}
+	most := limit(11, 1000000)
+	most.From, most.To = api.MaxTime, api.MaxTime
+	l := []api.Clause{c, most, apart(11, 0), apart(0, 11), limit(0, 0)}
+	w := api.Want{Reader: api.Reader{Territory: 7, Class: 7}, At: api.MaxTime, Uses: 1000000, Needs: [][]int{{0, 9, 10, 11}, {0, 1}, {0}, {11}}}
+	if !rights.Valid(l) || !rights.ValidWant(w) || !rights.Applies(c, w) {
+		t.Error("the greatest numbers")
+	}
+	w.Needs = [][]int{{8, 9, 10, 11}}
+	if p, _ := solve(t, l, make([]int, 12), w); !slices.Equal(p, []int{11}) {
+		t.Error(p)
+	}
+	used := slices.Repeat([]int{1000000}, 12)
+	if p, core := solve(t, l, used, w); len(p) != 0 || !slices.Equal(core, []int{1}) {
+		t.Error(p, core)
+	}
+}

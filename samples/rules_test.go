@@ -443,3 +443,82 @@ func clonedFull(v reflect.Value) any {
 	}
 	return m.clone(v, 1<<60).Interface()
 }
+
+// change changes the k-th number, string or bool that v reaches, and returns how many of them are left to be passed over.
+func change(v reflect.Value, k int) int {
+	switch v.Kind() {
+	case reflect.Int:
+		if k == 0 {
+			v.SetInt(v.Int() + 1)
+		}
+		return k - 1
+	case reflect.String:
+		if k == 0 {
+			v.SetString(v.String() + "x")
+		}
+		return k - 1
+	case reflect.Bool:
+		if k == 0 {
+			v.SetBool(!v.Bool())
+		}
+		return k - 1
+	case reflect.Slice, reflect.Array:
+		for i := range v.Len() {
+			k = change(v.Index(i), k)
+		}
+	case reflect.Struct:
+		for i := range v.NumField() {
+			k = change(v.Field(i), k)
+		}
+	}
+	return k
+}
+
+// fill sets all that v has, with one element in each slice.
+func fill(v reflect.Value) {
+	switch v.Kind() {
+	case reflect.Slice:
+		v.Set(reflect.MakeSlice(v.Type(), 1, 1))
+		fill(v.Index(0))
+	case reflect.Array:
+		for i := range v.Len() {
+			fill(v.Index(i))
+		}
+	case reflect.Struct:
+		for i := range v.NumField() {
+			fill(v.Field(i))
+		}
+	}
+}
+
+// TestSame checks that the functions Same compare all fields, of values that are valid or not: for each function, it says so of a value, and of no other one that differs in one place.
+func TestSame(t *testing.T) {
+	for name, f := range functions() {
+		if !strings.HasSuffix(name, ".Same") {
+			continue
+		}
+		same := reflect.ValueOf(f)
+		x := reflect.New(same.Type().In(0)).Elem()
+		fill(x)
+		places := 0
+		for change(x, places) < 0 {
+			places++
+		}
+		for k := range places {
+			a, b := reflect.New(x.Type()).Elem(), reflect.New(x.Type()).Elem()
+			fill(a)
+			fill(b)
+			if !same.Call([]reflect.Value{a, b})[0].Bool() {
+				t.Fatalf("%s: equal values are not the same", name)
+			}
+			change(b, k)
+			if same.Call([]reflect.Value{a, b})[0].Bool() || same.Call([]reflect.Value{b, a})[0].Bool() {
+				t.Errorf("%s: values that differ in the place %d are the same", name, k)
+			}
+		}
+		none := reflect.New(x.Type()).Elem()
+		if places == 0 || same.Call([]reflect.Value{x, none})[0].Bool() {
+			t.Errorf("%s: something is the same as nothing", name)
+		}
+	}
+}

@@ -261,3 +261,25 @@ func TestP24_6Fairness(t *testing.T) {
 		}
 	}
 }
+
+func TestP24_1Limits(t *testing.T) {
+	l := []api.Stream{{Class: 1, Size: 50, Period: 1000}, {Class: 3, Size: 1, Period: 1}, {Class: 2, Size: 1, Period: 2}}
+	if !sched.Valid(l) || !sched.Proper(l, []api.Arrival{{Stream: 1, At: 0}, {Stream: 1, At: 1}, {Stream: 0, At: 2000}}) {
+		t.Error("the greatest numbers")
+	}
+	l = []api.Stream{{Class: 1, Size: 1, Period: 20}}
+	for second, ok := range map[int]bool{24: false, 25: true, 44: true} {
+		if sched.Proper(l, []api.Arrival{{At: 5}, {At: second}}) != ok {
+			t.Error(second)
+		}
+	}
+	if r, e := sched.Response([]api.Stream{{Class: 1, Size: 10, Period: 10}, {Class: 1, Size: 1, Period: 10}}); !slices.Equal(r, []int{10, -1}) || e != api.OK {
+		t.Error(r, e)
+	}
+	if x, e := sched.Divide(1000000, []int{1000000, 0}); !slices.Equal(x, []int{1000000, 0}) || e != api.OK {
+		t.Error(x, e)
+	}
+	if x, e := sched.Divide(3, slices.Repeat([]int{1000000}, 8)); !slices.Equal(x, []int{1, 1, 1, 0, 0, 0, 0, 0}) || e != api.OK {
+		t.Error(x, e)
+	}
+}

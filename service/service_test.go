@@ -675,3 +675,41 @@ func TestP39_8TheRecord(t *testing.T) {
 		}
 	}
 }
+
+func TestP39_1Limits(t *testing.T) {
+	u := setup()
+	u.Price, u.Paper, u.Readers = 0, 0, u.Readers[:1]
+	u.Readers[0] = api.Reader{Territory: 7, Class: 7}
+	if !service.Valid(u) {
+		t.Error("the smallest setup")
+	}
+	u = setup()
+	s := run(t, u, file(0, 0, 3, 1, 0), story(0, 3, 0, 1, 2, 4, 5, 6, 15), print(0, 0, 0, 3, 2), file(1, api.MaxTime, 15, 1, 0))
+	if s.Now != api.MaxTime || s.Relays[0].Kept[0].Edition != 1 || s.Relays[0].Kept[0].Class != api.DTake {
+		t.Error(s.Relays)
+	}
+	back := do(t, u, s, api.Event{Kind: api.WRefund, At: api.MaxTime, Fact: 3})
+	if p := back.Book.Postings; p[len(p)-1].Day != 0 || p[len(p)-1].Kind != api.PReverse {
+		t.Error(p)
+	}
+	if again := do(t, u, back, print(api.MaxTime, 0, 0, 1, 0)); len(again.Sheets) != 2 {
+		t.Error("a sheet after a refund")
+	}
+	var e api.Event
+	e.Kind, e.At, e.Fact, e.Filing.Says.To = 100, 1000000000, -1000000000, 1000000000
+	e.Filing.Sources, e.Facts, e.Edits = slices.Repeat([]int{-1000000000}, 12), slices.Repeat([]int{15}, 8), slices.Repeat([]api.Edit{{Kind: api.ECut}}, 20)
+	text, f := service.Encode(e)
+	if d, g := service.Decode(text); f != api.OK || g != api.OK || !reflect.DeepEqual(d, e) {
+		t.Error(d, f, g)
+	}
+}
+
+func TestP39_1GuardNotices(t *testing.T) {
+	for kind, not := range map[int]bool{api.VCorrect: false, api.VDispute: false, api.VWithdraw: true, api.VKill: true} {
+		f := api.File{Sources: setup().Sources, Versions: []api.Version{{Fact: 1, Number: 1, Kind: api.VAssert, Says: says, At: 5, Sources: []int{5}}, {Fact: 1, Number: 2, Kind: kind, Says: says, At: 6, Sources: []int{5}}}}
+		x := api.Term{Nodes: []api.Node{{Parent: -1, Kind: api.NStory}, {ID: 2, Kind: api.NSentence, Fact: 1, Version: 1, Source: -1, Says: says}}}
+		if y, e := service.Guard(f, setup().Rules, 9, x); e != api.OK || y.Nodes[1] != (api.Node{ID: 2, Kind: api.NNotice, Fact: 1, Version: 2, Not: not}) {
+			t.Error(kind, y, e)
+		}
+	}
+}

@@ -188,10 +188,9 @@ func (n *network) least(allowed set, ways int) way {
 			}
 		}
 		w = slices.MinFunc(longer, way.compare)
-		rest := allowed &^ setOf(w)
-		if others, _ := n.flow(rest, n.first); n.said.has(w.last()) && others >= ways-1 {
+		if n.said.has(w.last()) { // whatever completes a longer way completes this one, too
 			return w
 		}
-		next = n.quoted[w.last()] & rest
+		next = n.quoted[w.last()] & allowed &^ setOf(w)
 	}
 }

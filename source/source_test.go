@@ -298,3 +298,31 @@ func TestP7_7Circles(t *testing.T) {
 		t.Error(s, e)
 	}
 }
+
+func TestP7_2NoWays(t *testing.T) {
+	l := example()
+	for i, s := range []api.Support{
+		{Count: 1, Ways: [][]int{{1, 2}}, Cut: []int{2}},
+		{Count: 1, Ways: [][]int{{}}, Cut: []int{0}},
+		{Count: 1, Ways: [][]int{{0}}, Cut: []int{0}},
+		{Count: 1, Ways: [][]int{{-1, 2}}, Cut: []int{0}},
+		{Count: 1, Ways: [][]int{{2}}, Cut: []int{2}},
+		{Count: 1, Ways: [][]int{{0, 2}}, Cut: []int{1}},
+		{Count: 1, Ways: [][]int{{0, 2}}, Cut: []int{7}},
+		{Count: 2, Ways: [][]int{{0, 2}, {0, 2}}, Cut: []int{0, 2}},
+		{Count: -1},
+	} {
+		if source.Check(l, []int{2}, s) {
+			t.Error(i, s)
+		}
+	}
+	if source.Check(l, []int{6}, api.Support{}) || source.Check(l, []int{2}, api.Support{}) {
+		t.Error("nothing is accepted")
+	}
+	if !source.Check(l, []int{2}, api.Support{Count: 1, Ways: [][]int{{0, 2}}, Cut: []int{2}}) {
+		t.Error("another cut is refused")
+	}
+	if !source.Valid([]api.Source{named(0), named(1), named(2), named(11, 0, 1, 2)}) {
+		t.Error("the greatest ID")
+	}
+}

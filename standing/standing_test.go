@@ -240,3 +240,26 @@ func TestP9_6SomeWay(t *testing.T) {
 		}
 	}
 }
+
+func TestP9_1Limits(t *testing.T) {
+	for _, r := range []api.Rules{{Flat: 1, Attributed: 1}, {Flat: 12, Attributed: 12, Dispute: 12, Withheld: true, Covert: 12}, {Flat: 3, Attributed: 2, Withheld: true, Covert: 2}} {
+		if !standing.Valid(r) {
+			t.Error(r)
+		}
+	}
+	for _, a := range [][2]int{{0, 0}, {15, api.MaxTime}} {
+		if s, e := standing.Of(example(0), rules, a[0], a[1]); s != (api.Standing{Source: -1}) || e != api.OK {
+			t.Error(a, s, e)
+		}
+	}
+	f := example(0)
+	f.Versions[0].Fact = 15
+	if s, e := standing.Of(f, rules, 15, 10); s.Kind != api.SAttributed || e != api.OK {
+		t.Error(s, e)
+	}
+	row := node(0)
+	row.Kind = api.NRow
+	if !standing.May(example(0), rules, 30, row) {
+		t.Error("a row")
+	}
+}

@@ -266,3 +266,25 @@ func TestP20_6Fixes(t *testing.T) {
 		}
 	}
 }
+
+func TestP20_1Limits(t *testing.T) {
+	for _, k := range []api.Take{{Story: 0, Number: 1, Kind: api.TFix}, {Story: 99, Number: 30, Kind: api.TWrite, Term: story(1)}} {
+		if !take.Valid(k) {
+			t.Error(k)
+		}
+	}
+	for _, n := range []int{0, 99} {
+		if l, e := take.Split(story(1), n, nil); len(l) != 1 || l[0].Story != n || e != api.OK {
+			t.Error(n, e)
+		}
+	}
+	other := story(2)
+	other.Nodes[0].ID, other.Nodes[1].Parent = 5, 5
+	if u, e := take.Next(story(1), of(api.TTake, 2, other)); u.Nodes != nil || e != api.ErrTake {
+		t.Error("another root", e)
+	}
+	para := api.Term{Nodes: []api.Node{{Parent: -1, Kind: api.NParagraph}}}
+	if u, e := take.Next(para, of(api.TWrite, 2, story(1))); u.Nodes != nil || e != api.ErrTake {
+		t.Error("no story before", e)
+	}
+}

@@ -315,3 +315,22 @@ func TestP13_7Size(t *testing.T) {
 		}
 	}
 }
+
+func TestP13_1Limits(t *testing.T) {
+	x := example()
+	x.Nodes[1] = api.Node{ID: 9999, Kind: api.NOwn, Text: strings.Repeat("x", 200)}
+	x.Nodes[3] = api.Node{ID: 5, Parent: 7, Kind: api.NQuote, Fact: 15, Version: 8, Source: 11, Says: says}
+	if !term.Valid(x) {
+		t.Error("not valid")
+	}
+	for _, s := range []int{0, 11, 99, -1} {
+		x.Nodes[3].Source = s
+		if term.Valid(x) != (s != -1) {
+			t.Error(s)
+		}
+	}
+	x.Nodes[3] = api.Node{ID: 5, Parent: 7, Kind: api.NTable}
+	if !term.Valid(x) || term.Valid(api.Term{Nodes: []api.Node{leaf(1, -1, api.NHeadline, 1, 0), leaf(2, 1, api.NSentence, 1, 0)}}) {
+		t.Error("containers")
+	}
+}

@@ -236,3 +236,32 @@ func TestP5_6Coarser(t *testing.T) {
 		}
 	}
 }
+
+func TestP5_1Limits(t *testing.T) {
+	for _, a := range []api.Amount{{Unit: 1}, {Lo: 999999, Hi: 999999, Unit: 7}, {Hi: 999999, Unit: 2}} {
+		if !unit.Valid(a) || !unit.Contains(a, a) {
+			t.Error(a)
+		}
+	}
+	for _, r := range []api.Rates{{Cents: 1, Euros: 1}, {Cents: 100000, Euros: 100000}, {Cents: 1, Euros: 100000}} {
+		a := api.Amount{Lo: 1, Hi: 1, Unit: api.UCent}
+		if b, e := unit.Convert(a, api.UEuro, r); !unit.ValidRates(r) || b.Lo != r.Euros/r.Cents || e != api.OK {
+			t.Error(r, b, e)
+		}
+	}
+	a := api.Amount{Lo: 10, Hi: 10, Unit: api.UMetre}
+	for _, c := range [][3]int{{0, 1, 0}, {0, 1000000, 0}, {1000000, 1000000, 10}, {1, 1, 10}, {1000000, 1000, 10000}} {
+		if b, e := unit.Share(a, c[0], c[1]); b.Lo != c[2] || e != api.OK {
+			t.Error(c, b, e)
+		}
+	}
+	if b, e := unit.Convert(a, api.UMetre, rates); b != a || e != api.OK {
+		t.Error(b, e)
+	}
+	if _, e := unit.Add(a, api.Amount{Lo: 10, Hi: 10, Unit: api.UFoot}); e != api.ErrUnit {
+		t.Error("different units", e)
+	}
+	if unit.Contains(a, api.Amount{Lo: 10, Hi: 10, Unit: api.UFoot}) {
+		t.Error("another unit is contained")
+	}
+}

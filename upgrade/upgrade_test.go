@@ -237,3 +237,23 @@ func TestP37_6NothingLost(t *testing.T) {
 		}
 	}
 }
+
+func TestP37_1Limits(t *testing.T) {
+	l := library()
+	one := api.Library{Editions: l.Editions[:1]}
+	four := api.Library{Editions: append(slices.Clone(l.Editions), l.Editions[2])}
+	if !upgrade.Valid(one) || !upgrade.Valid(four) {
+		t.Error("the number of editions")
+	}
+	f := []api.Station{{Language: 3, Edition: 4}, {Language: 3, Edition: 4}}
+	if n, e := upgrade.Common(four, f[0], f[1]); n != 4 || e != api.OK {
+		t.Error(n, e)
+	}
+	bad := library()
+	for i := range bad.Editions[2] {
+		bad.Editions[2][i].Verbs = bad.Editions[2][i].Verbs[:9]
+	}
+	if upgrade.Valid(bad) {
+		t.Error("fewer verbs")
+	}
+}

@@ -145,3 +145,12 @@ func TestP1_4Bursts(t *testing.T) {
 		}
 	}
 }
+
+func TestP1_2AtTheEnd(t *testing.T) {
+	if s, next, e := wire.String("x\x04ab", 1); s != "ab" || next != 4 || e != api.OK {
+		t.Error(s, next, e)
+	}
+	if s, next, e := wire.String("\x00", 0); s != "" || next != 1 || e != api.OK {
+		t.Error(s, next, e)
+	}
+}
