@@ -352,3 +352,40 @@ func TestP17_7Headlines(t *testing.T) {
 		}
 	}
 }
+
+func TestP17_1Limits(t *testing.T) {
+	g, x := samples.Small(), example()
+	timed := api.Statement{Whom: -1, From: 3, To: 4}
+	counted := api.Statement{Whom: -1, Count: api.Amount{Unit: 1}, From: -1, To: -1}
+	for i, c := range []struct {
+		s    api.Statement
+		form int
+		ok   bool
+	}{{timed, 1, true}, {timed, 2, false}, {timed, 3, false}, {counted, 1, false}, {counted, 2, true}, {counted, 3, false}} {
+		if u, ok := brief.Reduce(c.s, c.form); ok != c.ok || !ok && u != (api.Statement{}) {
+			t.Error(i, u, ok)
+		}
+	}
+	rich := []api.Worth{{Fact: 0, Value: 0}, {Fact: 2, Value: 100}, {Fact: 15, Value: 100}}
+	for _, limit := range []int{0, 400} {
+		c, e := brief.Certify(g, x, rich, limit)
+		b, f := brief.Cut(g, x, rich, limit)
+		if e != api.OK || len(c.Best[0]) != limit+1 || (f == api.OK) != (limit == 400) || (limit == 400) != term.Same(b, x) || c.Best[0][limit] != map[int]int{0: -1, 400: 404}[limit] {
+			t.Error(limit, e, f)
+		}
+		if n, e := brief.Headline(g, x, rich, limit); (e == api.OK) != (limit == 400) || e == api.OK && n.Fact != 2 {
+			t.Error(limit, n, e)
+		}
+	}
+	noted := api.Term{Nodes: append(slices.Clone(x.Nodes), api.Node{ID: 9, Kind: api.NNotice, Fact: 3})}
+	if _, _, e := brief.Value(g, noted, nil, x); e != api.ErrBrief {
+		t.Error("a notice is lost", e)
+	}
+	own := api.Term{Nodes: []api.Node{{ID: 4, Parent: -1, Kind: api.NOwn, Text: "so they say"}}}
+	if b, e := brief.Cut(g, own, nil, 5); !term.Same(b, own) || e != api.OK {
+		t.Error("own words as the root", b, e)
+	}
+	if _, e := brief.Cut(g, own, nil, 4); e != api.ErrBrief {
+		t.Error("own words that do not fit", e)
+	}
+}
