@@ -9,6 +9,7 @@ import (
 
 	"newswire/api"
 	"newswire/grammar"
+	"newswire/parse"
 	"newswire/samples"
 )
 
@@ -169,6 +170,32 @@ func TestP12_2NoDoubt(t *testing.T) {
 			if n.Kind <= api.NRow && (say(t, g, m) == s) != (m == n) {
 				t.Fatalf("%v and %v are %q", m, n, s)
 			}
+		}
+	}
+}
+
+func TestP12_2Lists(t *testing.T) {
+	r := rand.New(rand.NewSource(5))
+	for i := range 100 {
+		g := samples.Grammar(1 + i%3)
+		var l []api.Node
+		var words []string
+		for range 1 + r.Intn(5) {
+			n := leaf(r)
+			said, _ := grammar.Say(g, n)
+			l, words = append(l, n), append(words, said...)
+		}
+		at := 0
+		for _, n := range l {
+			m, next, e := parse.Leaf(g, words, at)
+			m.Parent = 0
+			if e != api.OK || m != told(n) {
+				t.Fatalf("%v is read as %v", n, m)
+			}
+			at = next
+		}
+		if at != len(words) {
+			t.Fatal("words are left")
 		}
 	}
 }
